@@ -3,6 +3,8 @@ package name
 import (
 	"cmp"
 	"strings"
+
+	"gazetteer/spell"
 )
 
 // Fold: the name in small letters.
@@ -10,14 +12,8 @@ func Fold(n string) string {
 	if !isName(n) {
 		return ""
 	}
-	wire := []byte(n)
 	// The lengths of labels are folded along: they stay below "A".
-	for i, b := range wire {
-		if 'A' <= b && b <= 'Z' {
-			wire[i] = b + ('a' - 'A')
-		}
-	}
-	return string(wire)
+	return spell.Small(n)
 }
 
 // Equal: are both names, and the same?

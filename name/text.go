@@ -1,9 +1,8 @@
 package name
 
 import (
-	"strings"
-
 	"gazetteer/api"
+	"gazetteer/spell"
 )
 
 // Read: the name that a text tells.
@@ -43,7 +42,7 @@ func readLabels(text string) (string, bool, int, api.Errno) {
 		begin, sizeAt := at, len(wire)
 		wire = append(wire, 0)
 		for at < len(text) && text[at] != '.' {
-			b, width := readByte(text[at:])
+			b, width := spell.Byte(text[at:])
 			if width == 0 {
 				return at, api.ErrText
 			}
@@ -72,33 +71,6 @@ func readLabels(text string) (string, bool, int, api.Errno) {
 	return string(wire), whole, 0, api.OK
 }
 
-// readByte: the byte that the beginning of a text stands for, and how much of
-// the text that is; 0 if it is a "\\" that stands for none.
-func readByte(text string) (byte, int) {
-	if text[0] != '\\' {
-		return text[0], 1
-	}
-	if len(text) > 1 && !isDigit(text[1]) {
-		return text[1], 2
-	}
-	if len(text) < 4 {
-		return 0, 0
-	}
-	number := 0
-	for i := 1; i < 4; i++ {
-		if !isDigit(text[i]) {
-			return 0, 0
-		}
-		number = number*10 + int(text[i]-'0')
-	}
-	if number > 255 {
-		return 0, 0
-	}
-	return byte(number), 4
-}
-
-func isDigit(b byte) bool { return '0' <= b && b <= '9' }
-
 // Show: how a name is written.
 func Show(n string) string {
 	if !isName(n) {
@@ -110,7 +82,7 @@ func Show(n string) string {
 	var text []byte
 	for _, label := range walk(n) {
 		for i := range len(label) {
-			text = appendShown(text, label[i])
+			text = spell.Append(text, label[i], '!', marked)
 		}
 		text = append(text, '.')
 	}
@@ -119,13 +91,3 @@ func Show(n string) string {
 
 // marked are the bytes that mean something in a written name or around it.
 const marked = `.\"();@$`
-
-func appendShown(text []byte, b byte) []byte {
-	if b < 33 || b > 126 {
-		return append(text, '\\', '0'+b/100, '0'+b/10%10, '0'+b%10)
-	}
-	if strings.IndexByte(marked, b) >= 0 {
-		text = append(text, '\\')
-	}
-	return append(text, b)
-}
