@@ -21,7 +21,7 @@ func Print(records []api.Record, origin string) (string, api.Errno) {
 	text.WriteString("$ORIGIN " + name.Show(origin) + "\n")
 	last := "" // no name: the first record has no owner ahead of it
 	for _, r := range records {
-		if !isRight(r) {
+		if !data.IsRecord(r) {
 			return "", api.ErrForm
 		}
 		if r.Owner != last {
@@ -35,11 +35,6 @@ func Print(records []api.Record, origin string) (string, api.Errno) {
 		text.WriteString("\n")
 	}
 	return text.String(), api.OK
-}
-
-func isRight(r api.Record) bool {
-	return name.Check(r.Owner) == api.OK && r.Class == api.IN &&
-		0 <= r.TTL && r.TTL <= api.MaxTTL && data.Check(r.Type, r.Data) == api.OK
 }
 
 // showOwner: an owner below the origin, in the same letters, without it.
