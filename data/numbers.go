@@ -13,21 +13,13 @@ type number struct{ width int }
 func (n number) size(d string) int { return need(d, n.width) }
 
 func (number) show(d string) []string {
-	value := 0
-	for i := range len(d) {
-		value = value<<8 | int(d[i])
-	}
-	return []string{strconv.Itoa(value)}
+	return []string{strconv.Itoa(spell.Value(d))}
 }
 
 func (n number) read(l *line) string {
 	value, ok := spell.Number(l.plain(), 10, 8*n.width)
 	l.must(ok)
-	b := make([]byte, n.width)
-	for i := range b {
-		b[n.width-1-i] = byte(value >> (8 * i))
-	}
-	return string(b)
+	return spell.Bytes(value, n.width)
 }
 
 // ip4: an address of four bytes.

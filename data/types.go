@@ -138,12 +138,11 @@ func (oneType) size(d string) int {
 }
 
 func (oneType) show(d string) []string {
-	return []string{TypeName(int(d[0])<<8 | int(d[1]))}
+	return []string{TypeName(spell.Value(d))}
 }
 
 func (oneType) read(l *line) string {
-	t := readType(l)
-	return string([]byte{byte(t >> 8), byte(t)})
+	return spell.Bytes(readType(l), 2)
 }
 
 // readType: the type that the next word tells.

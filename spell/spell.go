@@ -68,3 +68,21 @@ func Number(text string, most, bits int) (int, bool) {
 	}
 	return int(number), true
 }
+
+// Bytes: a number as so many bytes, the highest first.
+func Bytes(number, size int) string {
+	b := make([]byte, size)
+	for i := range b {
+		b[i] = byte(number >> (8 * (size - 1 - i)))
+	}
+	return string(b)
+}
+
+// Value: the number that bytes are, the highest first.
+func Value(b string) int {
+	number := 0
+	for i := range len(b) {
+		number = number<<8 | int(b[i])
+	}
+	return number
+}

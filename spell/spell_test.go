@@ -109,3 +109,27 @@ func TestNumber(t *testing.T) {
 		}
 	}
 }
+
+func TestBytesValue(t *testing.T) {
+	for _, c := range []struct {
+		number, size int
+		want         string
+	}{
+		{0, 0, ""},
+		{0, 1, "\x00"},
+		{255, 1, "\xff"},
+		{1, 2, "\x00\x01"},
+		{65534, 2, "\xff\xfe"},
+		{0x01020304, 4, "\x01\x02\x03\x04"},
+		{4294967295, 4, "\xff\xff\xff\xff"},
+		{1<<40 - 88, 5, "\xff\xff\xff\xff\xa8"},
+		{7, 5, "\x00\x00\x00\x00\x07"},
+	} {
+		if got := spell.Bytes(c.number, c.size); got != c.want {
+			t.Errorf("Bytes(%d, %d) = %q; wanted %q", c.number, c.size, got, c.want)
+		}
+		if got := spell.Value(c.want); got != c.number {
+			t.Errorf("Value(%q) = %d; wanted %d", c.want, got, c.number)
+		}
+	}
+}
