@@ -3,10 +3,42 @@ package data
 import (
 	"gazetteer/api"
 	"gazetteer/name"
+	"gazetteer/spell"
 )
 
 // IsRecord: may r stand in a zone, as far as r alone tells?
 func IsRecord(r api.Record) bool {
 	return name.Check(r.Owner) == api.OK && r.Class == api.IN &&
 		0 <= r.TTL && r.TTL <= api.MaxTTL && Check(r.Type, r.Data) == api.OK
+}
+
+// Sense: what a record says, however it is spelled and however old it may
+// become. Two of the same are like.
+type Sense struct {
+	Owner string // folded
+	Type  int
+	Data  string // folded
+}
+
+// SenseOf: of a record whose owner is a name, and whose data are right.
+func SenseOf(r api.Record) Sense {
+	return Sense{name.Fold(r.Owner), r.Type, Fold(r.Type, r.Data)}
+}
+
+// Target: the name to which a record of servers leads; "" for other records.
+func Target(r api.Record) string {
+	switch r.Type {
+	case api.NS, api.MX, api.SRV:
+		if names := Names(r.Type, r.Data); len(names) > 0 {
+			return names[len(names)-1]
+		}
+	}
+	return ""
+}
+
+// AgeOfAbsence: how long it may be kept that something isn't there, as a right
+// SOA tells.
+func AgeOfAbsence(soa api.Record) int {
+	// The minimum is the last number, of four bytes.
+	return min(soa.TTL, spell.Value(soa.Data[len(soa.Data)-4:]))
 }

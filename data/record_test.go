@@ -38,3 +38,70 @@ func TestIsRecord(t *testing.T) {
 		}
 	}
 }
+
+func TestSenseOf(t *testing.T) {
+	one := api.Record{Owner: "\x01a\x00", Type: api.MX, Class: api.IN, TTL: 60, Data: "\x00\x41\x01b\x00"}
+	for _, c := range []struct {
+		what string
+		do   func(r *api.Record)
+		want bool
+	}{
+		{"the same", func(r *api.Record) {}, true},
+		{"another age", func(r *api.Record) { r.TTL = 0 }, true},
+		{"letters of the owner", func(r *api.Record) { r.Owner = "\x01A\x00" }, true},
+		{"letters of a name in the data", func(r *api.Record) { r.Data = "\x00\x41\x01B\x00" }, true},
+		{"another owner", func(r *api.Record) { r.Owner = "\x01b\x00" }, false},
+		{"another type", func(r *api.Record) { r.Type = 700 }, false},
+		{"other data", func(r *api.Record) { r.Data = "\x00\x41\x01c\x00" }, false},
+		// These bytes are no letters.
+		{"another number", func(r *api.Record) { r.Data = "\x00\x61\x01b\x00" }, false},
+	} {
+		r := one
+		c.do(&r)
+		if got := data.SenseOf(r) == data.SenseOf(one); got != c.want {
+			t.Errorf("SenseOf, %s: %v; wanted %v", c.what, got, c.want)
+		}
+	}
+}
+
+func TestTarget(t *testing.T) {
+	for _, c := range []struct {
+		typ        int
+		data, want string
+	}{
+		{api.NS, "\x01A\x00", "\x01A\x00"},
+		{api.MX, "\x00\x01\x01b\x00", "\x01b\x00"},
+		{api.MX, "\x00\x01\x00", api.Root},
+		{api.SRV, "\x00\x01\x00\x01\x00\x01\x01c\x00", "\x01c\x00"},
+		{api.CNAME, "\x01a\x00", ""},
+		{api.PTR, "\x01a\x00", ""},
+		{api.A, "\x0a\x00\x00\x01", ""},
+		{api.MX, "\x00", ""},
+		{api.NS, "", ""},
+	} {
+		if got := data.Target(api.Record{Type: c.typ, Data: c.data}); got != c.want {
+			t.Errorf("Target of the type %d, %q: %q; wanted %q", c.typ, c.data, got, c.want)
+		}
+	}
+}
+
+func TestAgeOfAbsence(t *testing.T) {
+	head := "\x01a\x00\x00" + strings.Repeat("\xff", 16)
+	for _, c := range []struct {
+		age     int
+		minimum string
+		want    int
+	}{
+		{60, "\x00\x00\x00\x3b", 59},
+		{60, "\x00\x00\x00\x3c", 60},
+		{60, "\x00\x00\x00\x3d", 60},
+		{60, "\x00\x00\x00\x00", 0},
+		{0, "\xff\xff\xff\xff", 0},
+		{api.MaxTTL, "\x7f\xff\xff\xfe", api.MaxTTL - 1},
+		{api.MaxTTL, "\xff\xff\xff\xff", api.MaxTTL},
+	} {
+		if got := data.AgeOfAbsence(api.Record{Type: api.SOA, TTL: c.age, Data: head + c.minimum}); got != c.want {
+			t.Errorf("AgeOfAbsence of the age %d, minimum %x: %d; wanted %d", c.age, c.minimum, got, c.want)
+		}
+	}
+}

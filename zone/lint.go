@@ -28,7 +28,7 @@ func (z *Zone) judge(r api.Record) (int, string) {
 	if z.isHidden(r) {
 		return api.LintHidden, ""
 	}
-	target := targetOf(r)
+	target := data.Target(r)
 	if !name.Within(target, z.apex) {
 		return wise, ""
 	}
@@ -61,16 +61,6 @@ func (z *Zone) cutOf(n string) string {
 		if z.has(on, api.NS) {
 			return on
 		}
-	}
-	return ""
-}
-
-// targetOf: the name to which a record of servers leads; "" for other records.
-func targetOf(r api.Record) string {
-	switch r.Type {
-	case api.NS, api.MX, api.SRV:
-		names := data.Names(r.Type, r.Data)
-		return names[len(names)-1]
 	}
 	return ""
 }

@@ -13,18 +13,15 @@ import (
 // draft: a zone under way, laid out so that the rules can be asked of it.
 type draft struct {
 	zone   *Zone
-	apex   string        // folded
-	given  []api.Record  // in the list's order
-	folded []sense       // of each of these
-	likes  map[sense]int // the number of the first record of that sense
-	firsts map[place]int // and of a place
+	apex   string             // folded
+	given  []api.Record       // in the list's order
+	senses []data.Sense       // of each of these
+	likes  map[data.Sense]int // the number of the first record of that sense
+	firsts map[place]int      // and of a place
 }
 
-// sense: what a record says, however it is spelled. Two of the same are like.
-type sense struct {
-	place
-	data string // folded
-}
+// placeOf: where a record of that sense stands.
+func placeOf(s data.Sense) place { return place{s.Owner, s.Type} }
 
 // newDraft: records that are right, and within apex.
 func newDraft(apex string, records []api.Record) *draft {
@@ -32,17 +29,17 @@ func newDraft(apex string, records []api.Record) *draft {
 		zone:   &Zone{apex: apex, rows: make(map[place]row), names: make(map[string]int)},
 		apex:   name.Fold(apex),
 		given:  records,
-		likes:  make(map[sense]int),
+		likes:  make(map[data.Sense]int),
 		firsts: make(map[place]int),
 	}
 	for i, r := range records {
-		s := sense{place{name.Fold(r.Owner), r.Type}, data.Fold(r.Type, r.Data)}
-		d.folded = append(d.folded, s)
+		s := data.SenseOf(r)
+		d.senses = append(d.senses, s)
 		if _, ok := d.likes[s]; !ok {
 			d.likes[s] = i
 		}
-		if _, ok := d.firsts[s.place]; !ok {
-			d.firsts[s.place] = i
+		if _, ok := d.firsts[placeOf(s)]; !ok {
+			d.firsts[placeOf(s)] = i
 		}
 	}
 	d.lay()
@@ -55,20 +52,20 @@ func (d *draft) lay() {
 	for i := range order {
 		order[i] = i
 	}
-	slices.SortStableFunc(order, func(i, j int) int { return compare(d.folded[i], d.folded[j]) })
+	slices.SortStableFunc(order, func(i, j int) int { return compare(d.senses[i], d.senses[j]) })
 	for at, i := range order {
-		s := d.folded[i]
+		s := d.senses[i]
 		d.zone.records = append(d.zone.records, d.given[i])
-		d.zone.extend(s.place, at)
-		d.zone.extend(place{s.owner, allTypes}, at)
+		d.zone.extend(placeOf(s), at)
+		d.zone.extend(place{s.Owner, allTypes}, at)
 	}
 }
 
-func compare(a, b sense) int {
-	if a.owner != b.owner {
-		return name.Compare(a.owner, b.owner)
+func compare(a, b data.Sense) int {
+	if a.Owner != b.Owner {
+		return name.Compare(a.Owner, b.Owner)
 	}
-	return cmp.Or(cmp.Compare(a.typ, b.typ), strings.Compare(a.data, b.data))
+	return cmp.Or(cmp.Compare(a.Type, b.Type), strings.Compare(a.Data, b.Data))
 }
 
 // extend: the record of that number stands at p too, behind those before it.
@@ -125,10 +122,10 @@ func (d *draft) lack(t int) int {
 	return kept
 }
 
-func (d *draft) isTwice(i int, _ api.Record) bool { return d.likes[d.folded[i]] != i }
+func (d *draft) isTwice(i int, _ api.Record) bool { return d.likes[d.senses[i]] != i }
 
 func (d *draft) isStraySoa(i int, r api.Record) bool {
-	return r.Type == api.SOA && (d.folded[i].owner != d.apex || d.firsts[d.folded[i].place] != i)
+	return r.Type == api.SOA && (d.senses[i].Owner != d.apex || d.firsts[placeOf(d.senses[i])] != i)
 }
 
 func (d *draft) isWild(_ int, r api.Record) bool {
@@ -140,7 +137,7 @@ func (d *draft) isCrowdedAlias(i int, r api.Record) bool {
 		return false
 	}
 	others := 0
-	for _, o := range d.zone.at(d.folded[i].owner, allTypes) {
+	for _, o := range d.zone.at(d.senses[i].Owner, allTypes) {
 		if o.Type != api.RRSIG && o.Type != api.NSEC {
 			others++
 		}
@@ -152,7 +149,7 @@ func (d *draft) isWrongGraft(i int, r api.Record) bool {
 	if r.Type != api.DNAME {
 		return false
 	}
-	owner := d.folded[i].owner
+	owner := d.senses[i].Owner
 	return owner == d.apex || len(d.zone.at(owner, api.DNAME)) > 1 || d.zone.hasBelow(owner)
 }
 
@@ -164,5 +161,5 @@ func (z *Zone) hasBelow(owner string) bool {
 }
 
 func (d *draft) isOfOtherAge(i int, r api.Record) bool {
-	return r.Type != api.RRSIG && r.TTL != d.given[d.firsts[d.folded[i].place]].TTL
+	return r.Type != api.RRSIG && r.TTL != d.given[d.firsts[placeOf(d.senses[i])]].TTL
 }
