@@ -1,6 +1,8 @@
 package data
 
 import (
+	"slices"
+
 	"gazetteer/api"
 	"gazetteer/name"
 	"gazetteer/spell"
@@ -41,4 +43,17 @@ func Target(r api.Record) string {
 func AgeOfAbsence(soa api.Record) int {
 	// The minimum is the last number, of four bytes.
 	return min(soa.TTL, spell.Value(soa.Data[len(soa.Data)-4:]))
+}
+
+// Beyond: the records of a list that the others haven't just so, in the list's
+// order. Letters and ages count.
+func Beyond(list, others []api.Record) []api.Record {
+	stand := make(map[api.Record]struct{}, len(others))
+	for _, r := range others {
+		stand[r] = struct{}{}
+	}
+	return slices.DeleteFunc(slices.Clone(list), func(r api.Record) bool {
+		_, ok := stand[r]
+		return ok
+	})
 }

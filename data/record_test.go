@@ -1,6 +1,7 @@
 package data_test
 
 import (
+	"slices"
 	"strings"
 	"testing"
 
@@ -103,5 +104,32 @@ func TestAgeOfAbsence(t *testing.T) {
 		if got := data.AgeOfAbsence(api.Record{Type: api.SOA, TTL: c.age, Data: head + c.minimum}); got != c.want {
 			t.Errorf("AgeOfAbsence of the age %d, minimum %x: %d; wanted %d", c.age, c.minimum, got, c.want)
 		}
+	}
+}
+
+func TestBeyond(t *testing.T) {
+	one := api.Record{Owner: "\x01a\x00", Type: api.MX, Class: api.IN, TTL: 60, Data: "\x00\x01\x01b\x00"}
+	two := one
+	two.Data = "\x00\x02\x01b\x00"
+	list := []api.Record{two, one, two}
+	for _, c := range []struct {
+		what   string
+		others []api.Record
+		want   []api.Record
+	}{
+		{"none", nil, list},
+		{"one", []api.Record{one}, []api.Record{two, two}},
+		{"two", []api.Record{two}, []api.Record{one}},
+		{"both", []api.Record{one, two}, nil},
+		{"letters of the owner", []api.Record{two, {Owner: "\x01A\x00", Type: one.Type, Class: one.Class, TTL: one.TTL, Data: one.Data}}, []api.Record{one}},
+		{"letters of the data", []api.Record{two, {Owner: one.Owner, Type: one.Type, Class: one.Class, TTL: one.TTL, Data: "\x00\x01\x01B\x00"}}, []api.Record{one}},
+		{"another age", []api.Record{two, {Owner: one.Owner, Type: one.Type, Class: one.Class, TTL: 61, Data: one.Data}}, []api.Record{one}},
+	} {
+		if got := data.Beyond(list, c.others); !slices.Equal(got, c.want) {
+			t.Errorf("Beyond, %s: %v; wanted %v", c.what, got, c.want)
+		}
+	}
+	if !slices.Equal(list, []api.Record{two, one, two}) {
+		t.Error("Beyond changed the list")
 	}
 }

@@ -137,6 +137,23 @@ func TestNames(t *testing.T) {
 	}
 }
 
+func TestIsThere(t *testing.T) {
+	z := zoneAt(t, "eX.", "@ SOA ns h 7 2 3 4 5", "@ NS ns.org.", "x.A A 10.0.0.1", "*.w TXT hello", "b NS ns.b", "ns.b A 10.0.0.2", "h NSEC3 1 0 0 - 00")
+	for text, want := range map[string]bool{
+		"ex.": true, "EX.": true, "a.ex.": true, "X.a.Ex.": true, "w.ex.": true, "*.w.ex.": true, "b.ex.": true, "NS.b.ex.": true,
+		".": false, "org.": false, "x.ex.": false, "y.x.a.ex.": false, "q.w.ex.": false, "q.b.ex.": false, "h.ex.": false,
+	} {
+		if got := z.IsThere(n(text)); got != want {
+			t.Errorf("IsThere(%s) = %v", text, got)
+		}
+	}
+	for _, wrong := range []string{"", "\x02ex", "ex.", "\x02ex\x00\x00"} {
+		if z.IsThere(wrong) {
+			t.Errorf("IsThere(%q), which is no name", wrong)
+		}
+	}
+}
+
 // TestDeepNames: names above the apex aren't told, and one of 255 bytes is.
 func TestDeepNames(t *testing.T) {
 	apex := "\x01c\x02EX\x00"
