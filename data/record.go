@@ -27,6 +27,18 @@ func SenseOf(r api.Record) Sense {
 	return Sense{name.Fold(r.Owner), r.Type, Fold(r.Type, r.Data)}
 }
 
+// IsSet: are they records of one owner and one type, and none twice?
+func IsSet(records []api.Record) bool {
+	seen := make(map[Sense]struct{}, len(records))
+	for _, r := range records {
+		if !IsRecord(r) || r.Type != records[0].Type || !name.Equal(r.Owner, records[0].Owner) {
+			return false
+		}
+		seen[SenseOf(r)] = struct{}{}
+	}
+	return len(records) > 0 && len(seen) == len(records)
+}
+
 // Target: the name to which a record of servers leads; "" for other records.
 func Target(r api.Record) string {
 	switch r.Type {

@@ -65,6 +65,54 @@ func TestSenseOf(t *testing.T) {
 	}
 }
 
+func TestIsSet(t *testing.T) {
+	mx := func(owner, d string) api.Record {
+		return api.Record{Owner: owner, Type: api.MX, Class: api.IN, TTL: 60, Data: d}
+	}
+	one, two, three := mx("\x01a\x00", "\x00\x41\x01b\x00"), mx("\x01A\x00", "\x00\x61\x01b\x00"), mx("\x01a\x00", "\x00\x41\x01c\x00")
+	two.TTL = 0
+	with := func(do func(r *api.Record)) []api.Record {
+		r := three
+		do(&r)
+		return []api.Record{one, two, r}
+	}
+	for _, c := range []struct {
+		what string
+		list []api.Record
+		want bool
+	}{
+		{"none", nil, false},
+		{"an empty list", []api.Record{}, false},
+		{"one", []api.Record{one}, true},
+		{"three", []api.Record{one, two, three}, true},
+		{"RRSIG", []api.Record{{Owner: "\x00", Type: api.RRSIG, Class: api.IN, Data: "\x00" + strings.Repeat("\x01", 17) + "\x00\x01"}}, true},
+		{"twice", []api.Record{one, two, one}, false},
+		{"twice at once", []api.Record{one, one}, false},
+		{"twice in other letters", with(func(r *api.Record) { r.Data = "\x00\x41\x01B\x00" }), false},
+		{"twice with another age", with(func(r *api.Record) { r.Data, r.TTL = one.Data, 61 }), false},
+		{"another owner", with(func(r *api.Record) { r.Owner = "\x01b\x00" }), false},
+		{"another type", with(func(r *api.Record) { r.Type = 700 }), false},
+		{"another class", with(func(r *api.Record) { r.Class = 3 }), false},
+		{"age -1", with(func(r *api.Record) { r.TTL = -1 }), false},
+		{"no data", with(func(r *api.Record) { r.Data = "" }), false},
+		{"no name", with(func(r *api.Record) { r.Owner = "a" }), false},
+		{"one that is wrong", []api.Record{{}}, false},
+	} {
+		before := slices.Clone(c.list)
+		if got := data.IsSet(c.list); got != c.want {
+			t.Errorf("IsSet, %s: %v; wanted %v", c.what, got, c.want)
+		}
+		slices.Reverse(c.list)
+		if got := data.IsSet(c.list); got != c.want {
+			t.Errorf("IsSet, %s, back to front: %v; wanted %v", c.what, got, c.want)
+		}
+		slices.Reverse(c.list)
+		if !slices.Equal(before, c.list) {
+			t.Errorf("IsSet, %s: the list was changed", c.what)
+		}
+	}
+}
+
 func TestTarget(t *testing.T) {
 	for _, c := range []struct {
 		typ        int

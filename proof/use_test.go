@@ -98,6 +98,9 @@ func proves(t *testing.T, records ...api.Record) bool {
 	if (name == noName) != absent || name == noData {
 		t.Errorf("P8.4, P8.5 of %q: Judge %d, Absent %v", toldAll(records), name, absent)
 	}
+	if len(records) == 1 && proof.MayUse(n("eX."), records[0]) != absent {
+		t.Errorf("P8.3 of %q: MayUse %v", toldAll(records), !absent)
+	}
 	return absent
 }
 
@@ -145,6 +148,9 @@ func TestApexIsNone(t *testing.T) {
 	for _, apex := range []string{"", "ex.", "\x02ex", "\x02ex\x00\x00"} {
 		if proof.Judge(apex, []api.Record{whole(), wholeHashed()}, n("x.ex."), api.A) != nothing || proof.Absent(apex, []api.Record{whole()}, n("x.ex.")) {
 			t.Errorf("P8.3: something is proved for %q", apex)
+		}
+		if proof.MayUse(apex, whole()) || proof.MayUse(apex, wholeHashed()) {
+			t.Errorf("P8.3: something may be used for %q", apex)
 		}
 	}
 }

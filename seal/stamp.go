@@ -10,19 +10,8 @@ import (
 	"gazetteer/spell"
 )
 
-// isSet: are the records a set?
-func isSet(set []api.Record) bool {
-	if len(set) == 0 {
-		return false
-	}
-	strange := func(r api.Record) bool {
-		return !data.IsRecord(r) || r.Type != set[0].Type || !name.Equal(r.Owner, set[0].Owner)
-	}
-	if set[0].Type == api.RRSIG || slices.ContainsFunc(set, strange) {
-		return false
-	}
-	return len(slices.Compact(foldedData(set))) == len(set)
-}
+// isSet: are the records a set that may be signed?
+func isSet(set []api.Record) bool { return data.IsSet(set) && set[0].Type != api.RRSIG }
 
 // foldedData: the data of a set, folded, in their order.
 func foldedData(set []api.Record) []string {
