@@ -28,6 +28,9 @@ func (l link) has(t int) bool {
 // isCut: is what stands there another zone's, but for the DS?
 func (l link) isCut() bool { return l.has(api.NS) && !l.has(api.SOA) }
 
+// isBareCut: is even the DS missing there?
+func (l link) isBareCut() bool { return l.isCut() && !l.has(api.DS) }
+
 // leadsAway: is what is below it told elsewhere?
 func (l link) leadsAway() bool { return l.isCut() || l.has(api.DNAME) }
 

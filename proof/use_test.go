@@ -209,3 +209,40 @@ func TestBeside(t *testing.T) {
 		t.Error("P8.4, P8.5: other records count")
 	}
 }
+
+// TestShowsNoDs: where another zone begins without DS.
+func TestShowsNoDs(t *testing.T) {
+	for _, c := range []struct {
+		r    api.Record
+		n    string
+		want bool
+	}{
+		{list("a NSEC b NS")[0], "a.ex.", true},
+		{list("a NSEC b NS")[0], "A.EX.", true},
+		{list("a NSEC b NS A RRSIG NSEC")[0], "a.ex.", true},
+		{list("a NSEC b NS SOA")[0], "a.ex.", false},
+		{list("a NSEC b NS DS")[0], "a.ex.", false},
+		{list("a NSEC b A")[0], "a.ex.", false},
+		{list("a NSEC b")[0], "a.ex.", false},
+		{list("a NSEC c NS")[0], "b.ex.", false},
+		{list("a NSEC b NS")[0], "b.ex.", false},
+		{list("a NSEC b NS")[0], "x.a.ex.", false},
+		{list("a NSEC org. NS")[0], "a.ex.", false},
+		{list("a.org. NSEC a.org. NS")[0], "a.org.", false},
+		{list("a NS b")[0], "a.ex.", false},
+		{at("a.ex.", "NS"), "a.ex.", true},
+		{at("a.ex.", "NS"), "A.eX.", true},
+		{at("a.ex.", "NS", "SOA"), "a.ex.", false},
+		{at("a.ex.", "NS", "DS"), "a.ex.", false},
+		{at("a.ex.", "A"), "a.ex.", false},
+		{at("a.ex.", "NS"), "b.ex.", false},
+		{over("a.ex."), "a.ex.", false},
+		{hashed(salt, 50, hashBy(n("a.ex."), salt, 50), hash(n("b.ex.")), "NS"), "a.ex.", true},
+		{hashed(salt, 51, hash(n("a.ex.")), hash(n("b.ex.")), "NS"), "a.ex.", false},
+		{hashed("", rounds, hash(n("a.ex.")), hash(n("b.ex.")), "NS"), "a.ex.", false},
+	} {
+		if got := proof.ShowsNoDs(n("ex."), c.r, n(c.n)); got != c.want {
+			t.Errorf("ShowsNoDs(%s) of %s = %v", c.n, told(c.r), got)
+		}
+	}
+}

@@ -10,8 +10,8 @@ import (
 	"gazetteer/spell"
 )
 
-// isSet: are the records a set that may be signed?
-func isSet(set []api.Record) bool { return data.IsSet(set) && set[0].Type != api.RRSIG }
+// IsSet: are the records a set that may be signed?
+func IsSet(set []api.Record) bool { return data.IsSet(set) && set[0].Type != api.RRSIG }
 
 // foldedData: the data of a set, folded, in their order.
 func foldedData(set []api.Record) []string {
@@ -29,6 +29,16 @@ func labelsOf(n string) int {
 		return name.Count(n) - 1
 	}
 	return name.Count(n)
+}
+
+// Missing: the name that must not be there if a signature, which fits a set of
+// n, was made for a star's set; "" if it was made for n's own.
+func Missing(n string, sig api.Record) string {
+	s, _ := stampOf(sig.Data)
+	if s.labels == labelsOf(n) {
+		return ""
+	}
+	return name.Tail(n, s.labels+1)
 }
 
 // stamp: what the data of an RRSIG tell, but for the signature.

@@ -325,3 +325,33 @@ func TestVerifyTypes(t *testing.T) {
 		t.Errorf("P6.6 Verify of the longest data = %d", e)
 	}
 }
+
+// TestMissing: which name must not be there, if a signature is a star's.
+func TestMissing(t *testing.T) {
+	for _, c := range []struct{ signed, stands, want string }{
+		{"a.ex.", "a.ex.", ""},
+		{"a.ex.", "A.EX.", ""},
+		{"*.ex.", "*.ex.", ""},
+		{"*.a.ex.", "*.a.ex.", ""},
+		{"*.ex.", "a.ex.", "a.ex."},
+		{"*.ex.", "c.b.A.ex.", "A.ex."},
+		{"*.a.ex.", "c.b.a.ex.", "b.a.ex."},
+		{"*.ex.", "*.a.ex.", "a.ex."},
+		{"*.ex.", "*.b.a.ex.", "a.ex."},
+		{"*.ex.", "*.*.ex.", "*.ex."},
+	} {
+		sig := signed(t, list(c.signed+" A 10.0.0.1"))
+		sig.Owner = n(c.stands)
+		set := list(c.stands + " A 10.0.0.1")
+		if e := seal.Verify(set, sig, n("ex."), seal.Public(entry()), 150); e != api.OK {
+			t.Fatalf("P6.6 Verify of %s by %s = %d", c.stands, c.signed, e)
+		}
+		want := ""
+		if c.want != "" {
+			want = n(c.want)
+		}
+		if got := seal.Missing(n(c.stands), sig); got != want {
+			t.Errorf("Missing(%s) of the signature of %s = %q; wanted %q", c.stands, c.signed, got, want)
+		}
+	}
+}
