@@ -17,6 +17,7 @@ const (
 	aLack              // a name has no records of a type
 	aVoid              // a name isn't there
 	aProof             // an NSEC of a zone
+	aNote              // what whoever has the cache notes of a name
 )
 
 // key: of what an entry tells. There is at most one entry of each. Names are
@@ -24,7 +25,7 @@ const (
 type key struct {
 	kind kind
 	name string // of a proof, its owner
-	typ  int    // of sets and lacks
+	typ  int    // of sets and lacks; of a note, its number
 	apex string // of proofs
 }
 
@@ -37,6 +38,8 @@ func voidKey(n string) key { return key{kind: aVoid, name: name.Fold(n)} }
 func proofKey(apex, owner string) key {
 	return key{kind: aProof, name: name.Fold(owner), apex: name.Fold(apex)}
 }
+
+func noteKey(n string, number int) key { return key{kind: aNote, name: name.Fold(n), typ: number} }
 
 // entry: what is remembered of a key.
 type entry struct {

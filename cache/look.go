@@ -22,6 +22,18 @@ func (c *Cache) Look(n string, t, now int) api.Known {
 	return api.Known{Kind: c.absence(n, t, now)}
 }
 
+// Noted: what is noted of a name by a number, with the age that is left.
+func (c *Cache) Noted(n string, number, now int) []api.Record {
+	if c.isNone() || !isTime(now) {
+		return nil
+	}
+	// What is no name folds to "", of which nothing is noted.
+	if e := c.entries[noteKey(n, number)]; e.isAlive(now) {
+		return e.known(api.KnowSet, now).Records
+	}
+	return nil
+}
+
 // known: what a set that is alive tells.
 func (e *entry) known(kind, now int) api.Known {
 	records := slices.Clone(e.records)
