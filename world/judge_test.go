@@ -183,6 +183,9 @@ func TestAnchors(t *testing.T) {
 		{"@" + key + "AA==", "0"},
 		{"@" + key + "AAAAAAAAAAM=|@" + key + "AAEB3QAAAAM=", "1"},
 		{"@ DS 257 253 1 0101", "0"},
+		// Wherever it stands in the zone, it is a key of the zone's apex.
+		{"x" + key + "AAEB3QAAAAM=", "1"},
+		{"x" + key + "AAEB3QAAAAM=|@" + key + "AAEB3QAAAAM=", "2"},
 	} {
 		w := told("server a", loading("a", "ex.", 1, strings.Split(c.lines, "|")...))
 		checkDo(t, w, "anchor a ex.", c.want, "ok")
